@@ -1,0 +1,99 @@
+package frame
+
+import (
+	"weirgate/api"
+)
+
+// numBytes is how many bytes a number takes at most.
+const numBytes = 10
+
+// firstNum is the number that bytes begin with, and how many of them it takes:
+// none, if they begin with no number as Num writes it.
+func firstNum(b []byte) (n, size int) {
+	x := uint64(0)
+	for i := range min(len(b), numBytes) {
+		x |= uint64(b[i]&127) << (7 * i)
+		if b[i] >= 128 {
+			continue
+		}
+		needless := i > 0 && b[i] == 0
+		tooGreat := i == numBytes-1 && b[i] > 1 // one bit of 64 is left for the last
+		if needless || tooGreat {
+			return 0, 0
+		}
+		return ofBits(x), i + 1
+	}
+	return 0, 0
+}
+
+// ofBits is the number that withNum writes as these bits.
+func ofBits(x uint64) int {
+	half := int(x / 2)
+	if x%2 == 1 {
+		return -half - 1
+	}
+	return half
+}
+
+// reader takes what was written from the front of bytes. Once they are not
+// such, it is bad, and gives only 0 and "": so it is asked but once, at the
+// end.
+type reader struct {
+	rest []byte
+	bad  bool
+}
+
+func (from *reader) spoil() {
+	from.rest, from.bad = nil, true
+}
+
+// ended tells whether all was right, and nothing is left.
+func (from *reader) ended() bool {
+	return !from.bad && len(from.rest) == 0
+}
+
+func (from *reader) num() int {
+	n, size := firstNum(from.rest)
+	if size == 0 {
+		from.spoil()
+	}
+	from.rest = from.rest[size:]
+	return n
+}
+
+func (from *reader) text() string {
+	many := from.num()
+	if many < 0 || many > len(from.rest) {
+		from.spoil()
+		return ""
+	}
+	s := string(from.rest[:many])
+	from.rest = from.rest[many:]
+	return s
+}
+
+// many is how many items are told to follow: bounded, since nothing else tells
+// yet whether they do.
+func (from *reader) many() int {
+	n := from.num()
+	if n < 0 || n > api.MaxItems {
+		from.spoil()
+		return 0
+	}
+	return n
+}
+
+func (from *reader) record() api.Record {
+	key := from.text()
+	num := from.num()
+	time := from.num()
+	return api.Record{Key: key, Num: num, Time: time}
+}
+
+func (from *reader) held() api.Held {
+	node := from.num()
+	key := from.text()
+	a := from.num()
+	b := from.num()
+	return api.Held{Node: node, Key: key, A: a, B: b}
+}
