@@ -35,36 +35,50 @@ func ofBits(x uint64) int {
 	return half
 }
 
-// reader takes what was written from the front of bytes. Once they are not
+// Reader takes what was written from the front of bytes. Once they are not
 // such, it is bad, and gives only 0 and "": so it is asked but once, at the
 // end.
-type reader struct {
+type Reader struct {
 	rest []byte
 	bad  bool
 }
 
-func (from *reader) spoil() {
+// Take reads bytes by a function, for as long as that runs. ErrFile: they are
+// not just what it took.
+func Take(b []byte, read func(from *Reader)) error {
+	from := Reader{rest: b}
+	read(&from)
+	if !from.ended() {
+		return api.ErrFile
+	}
+	return nil
+}
+
+// Spoil tells that what was taken is none that was written.
+func (from *Reader) Spoil() {
 	from.rest, from.bad = nil, true
 }
 
 // ended tells whether all was right, and nothing is left.
-func (from *reader) ended() bool {
+func (from *Reader) ended() bool {
 	return !from.bad && len(from.rest) == 0
 }
 
-func (from *reader) num() int {
+// Num takes a number.
+func (from *Reader) Num() int {
 	n, size := firstNum(from.rest)
 	if size == 0 {
-		from.spoil()
+		from.Spoil()
 	}
 	from.rest = from.rest[size:]
 	return n
 }
 
-func (from *reader) text() string {
-	many := from.num()
+// Text takes a text.
+func (from *Reader) Text() string {
+	many := from.Num()
 	if many < 0 || many > len(from.rest) {
-		from.spoil()
+		from.Spoil()
 		return ""
 	}
 	s := string(from.rest[:many])
@@ -72,28 +86,28 @@ func (from *reader) text() string {
 	return s
 }
 
-// many is how many items are told to follow: bounded, since nothing else tells
-// yet whether they do.
-func (from *reader) many() int {
-	n := from.num()
+// Many takes how many items are told to follow: bounded, since nothing else
+// tells yet whether they do.
+func (from *Reader) Many() int {
+	n := from.Num()
 	if n < 0 || n > api.MaxItems {
-		from.spoil()
+		from.Spoil()
 		return 0
 	}
 	return n
 }
 
-func (from *reader) record() api.Record {
-	key := from.text()
-	num := from.num()
-	time := from.num()
+func (from *Reader) record() api.Record {
+	key := from.Text()
+	num := from.Num()
+	time := from.Num()
 	return api.Record{Key: key, Num: num, Time: time}
 }
 
-func (from *reader) held() api.Held {
-	node := from.num()
-	key := from.text()
-	a := from.num()
-	b := from.num()
+func (from *Reader) held() api.Held {
+	node := from.Num()
+	key := from.Text()
+	a := from.Num()
+	b := from.Num()
 	return api.Held{Node: node, Key: key, A: a, B: b}
 }
