@@ -72,6 +72,19 @@ func TestNoNames(t *testing.T) {
 	wantSteps(t, d, 0)
 }
 
+func TestIsName(t *testing.T) {
+	for _, name := range []string{"-", "0", "9", "a", "z", "a-0", strings.Repeat("z", 20)} {
+		if !disk.IsName(name) {
+			t.Errorf("%q is no name", name)
+		}
+	}
+	for _, name := range noNames() {
+		if disk.IsName(name) {
+			t.Errorf("%q is a name", name)
+		}
+	}
+}
+
 func TestWrite(t *testing.T) {
 	d := disk.New()
 	write(t, d, "a", "one")

@@ -10,7 +10,7 @@ func (d *Disk) check(names ...string) error {
 		return api.ErrState
 	}
 	for _, name := range names {
-		if !isName(name) {
+		if !IsName(name) {
 			return api.ErrSyntax
 		}
 	}
@@ -35,7 +35,9 @@ func (d *Disk) back(name string) func() {
 	}
 }
 
-func isName(s string) bool {
+// IsName tells whether a file may have that name; other layers ask it of names
+// that they are told.
+func IsName(s string) bool {
 	if len(s) < 1 || len(s) > maxName {
 		return false
 	}

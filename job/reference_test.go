@@ -145,7 +145,7 @@ func roundTrip(t *testing.T, l []api.Node) {
 }
 
 var lineForm = regexp.MustCompile(strings.ReplaceAll(
-	`^(?s:(source)( #)|(map|filter|sub|fold)( #) ([^ \n]+)|(copy|every)( #)( #)|(union)((?: #)*)|(first|sink)( #))\n$`,
+	`^(?s:(source)( #)|(map|filter|sub|fold)( #) ([^ \n]*)|(copy|every)( #)( #)|(union)((?: #)*)|(first|sink)( #))\n$`,
 	"#", `(?:0|[1-9][0-9]?[0-9]?)`))
 
 // formOf is the node of a line, if it is one.
@@ -195,7 +195,7 @@ func secondParse(text string) ([]api.Node, int, api.Errno) {
 	return l, at, err
 }
 
-var scraps = []string{" ", "\n", "0", "1", "9", "-", "n", "source 1\n", "sink 0\n", "union", " 0", "first 1\n", "", "", "\x00", "every 0 400\n", "999", "(", "map 0 s\n"}
+var scraps = []string{" ", "\n", "0", "1", "9", "-", "n", "source 1\n", "sink 0\n", "union", " 0", "first 1\n", "", "", "\x00", "every 0 400\n", "999", "(", "map 0 s\n", "map 0 \n", "fold 9 \n"}
 
 // disturbed is a text with a few scraps laid in, or over a byte or two.
 func disturbed(random *rand.Rand, text string) string {
@@ -223,8 +223,8 @@ func thrownText(random *rand.Rand) string {
 		if one.Kind == 1 || one.Kind == 5 || one.Kind == 8 {
 			fmt.Fprint(&out, " ", one.N)
 		}
-		if one.Text != "" {
-			fmt.Fprint(&out, " ", one.Text)
+		if text := map[int]bool{2: true, 3: true, 4: true, 7: true}[one.Kind]; text || one.Text != "" {
+			fmt.Fprint(&out, " ", one.Text) // an empty one leaves a blank at the end
 		}
 		out.WriteString("\n")
 	}

@@ -73,7 +73,7 @@ func readNode(line string) (api.Node, bool) {
 		one.N, ok = readNumber(own)
 	}
 	if hasText(one.Kind) {
-		one.Text, ok = strings.Clone(own), own != ""
+		one.Text = strings.Clone(own) // it may be empty, as any Text is Check's to refuse
 	}
 	return one, ok
 }

@@ -68,7 +68,7 @@ func TestPrintFromOfTwoDigits(t *testing.T) {
 func TestParseNoLine(t *testing.T) {
 	lines := strings.Split("|foo|0|maps 0 n|ma 0 n|Map 0 n|map0 n|mapn 0|sinks 0|"+ // the kind
 		" |  |map  0 n|map 0  n|copy 0  1|union 0  0|union  0|first  0|source  1|map\t0\tn|\tfirst 0|"+ // the blanks
-		" first 0|first 0 |first 0  |source 1 |union |union 0 |map 0 n | map 0 n|copy 0 1 |map 0 |map |first |source |"+ // at an end
+		" first 0|first 0 |first 0  |source 1 |union |union 0 |map 0 n | map 0 n|copy 0 1 |map |first |copy 0 |every 0 |source |"+ // at an end
 		"source|map|filter|sub|fold|copy|every|first|sink|map 0|filter 0|sub 0|fold 0|copy 0|every 0|map n|"+ // too few
 		"source 0 1|source 1 1|source 1 n|map 0 0 n|map 0 n n|map 0 n +1|filter 0 0 n|sub 0 0 n|fold 0 0 n|"+ // too many
 		"copy 0 0 1|every 0 0 1|first 0 0|sink 0 0|first 0 n|sink 0 n|union n|union 0 n|union 0 0 0 0 0 n|"+
@@ -76,11 +76,37 @@ func TestParseNoLine(t *testing.T) {
 		"source 01|source 00|first 00|first 01|sink 000|every 0 01|every 0 00|copy 0 00|union 00|union 0 01|map 00 n|"+ // a needless 0
 		"source x|source -1|source +1|source 1.|source 0x1|source 1_0|first -0|first -1|every 0 -1|copy 0 +1|union -1|map -1 n|map n 0|"+
 		"source \xb2|source 99999999999999999999|first 18446744073709551616|every 0 9223372036854775808|"+
-		"source 1\r|first 0\r|map 9 |map 9 n n|every 0 1\x00", "|")
+		"source 1\r|first 0\r|map 9 n n|map 9  |map  |map 0 n  |filter  9|every 0 1\x00", "|")
 	for _, line := range lines {
 		wantLine(t, "source 1\n"+line+"\nsink 0\n", 1, api.ErrSyntax)
 		wantLine(t, line+"\nsource 1\nsink 0\n", 0, api.ErrSyntax)
 		wantLine(t, "source 1\nsink 0\n"+line+"\n", 2, api.ErrSyntax)
+	}
+}
+
+// A line that ends in a blank has an empty Text: it is a line, and what is
+// wrong with it is told in the order of any other.
+func TestParseEmptyText(t *testing.T) {
+	twelve := strings.Repeat("source 1\n", 11) + "sink 0\n"
+	for _, kind := range []string{"map", "filter", "sub", "fold"} {
+		wantLine(t, "source 1\n"+kind+" 0 \nsink 1\n", 1, api.ErrSyntax)
+		wantLine(t, "source 1\nfirst 0\n"+kind+" 1 \nfoo\n", 2, api.ErrSyntax)
+		wantLine(t, kind+" 0 \nsource 1\nsink 0\n", 0, api.ErrRange)
+		wantLine(t, "source 1\n"+kind+" 1 \nsink 0\n", 1, api.ErrRange)
+		wantLine(t, "source 1\n"+kind+" 5 \nsink 1\n", 1, api.ErrRange)
+		wantLine(t, "source 1\n"+kind+" 999 \nsink 1\n", 1, api.ErrRange)
+		wantLine(t, "source 1\nsink 0\n"+kind+" 1 \n", 2, api.ErrState)
+		wantLine(t, "source 1\nsink 0\n"+kind+" 2 \n", 2, api.ErrRange)
+		wantLine(t, twelve+kind+" 0 \n", 12, api.ErrFull)
+		wantLine(t, twelve+kind+" 11 \n", 12, api.ErrFull)
+		wantLine(t, twelve+kind+" 99 \n", 12, api.ErrFull)
+		for _, none := range []string{" 5", " ", "  ", " 5  ", "  5", " 05 ", " 1000 ", " -1 ", " n ", " 5\t"} {
+			wantLine(t, "source 1\n"+kind+none+"\nsink 0\n", 1, api.ErrSyntax)
+			wantLine(t, twelve+kind+none+"\n", 12, api.ErrSyntax)
+		}
+		wantLine(t, "source 1\n"+kind+" 5 ", 1, api.ErrSyntax)
+		wantLine(t, "source 1\nsink 0\n"+kind+" 1 ", 2, api.ErrSyntax)
+		wantLine(t, twelve+kind+" 0 ", 12, api.ErrSyntax)
 	}
 }
 
