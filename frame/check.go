@@ -24,17 +24,22 @@ func checkHelds(l []api.Held) error {
 		return api.ErrFull
 	}
 	for i, h := range l {
-		if h.Node < 0 || h.Node >= api.MaxNodes || len(h.Key) > api.MaxKey {
+		if !IsHeld(h) {
 			return api.ErrRange
 		}
-		if i > 0 && compare(l[i-1], h) >= 0 {
+		if i > 0 && Compare(l[i-1], h) >= 0 {
 			return api.ErrOrder
 		}
 	}
 	return nil
 }
 
-// compare tells which state stands ahead: by Node, then Key (bytes).
-func compare(a, b api.Held) int {
+// IsHeld tells whether a state's Node and Key are such as may be.
+func IsHeld(h api.Held) bool {
+	return h.Node >= 0 && h.Node < api.MaxNodes && len(h.Key) <= api.MaxKey
+}
+
+// Compare tells which state stands ahead: by Node, then Key (bytes).
+func Compare(a, b api.Held) int {
 	return cmp.Or(cmp.Compare(a.Node, b.Node), strings.Compare(a.Key, b.Key))
 }

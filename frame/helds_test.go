@@ -2,6 +2,7 @@ package frame_test
 
 import (
 	"bytes"
+	"cmp"
 	"reflect"
 	"slices"
 	"strings"
@@ -225,5 +226,36 @@ func TestHeldsAreFresh(t *testing.T) {
 	}
 	if again, _ := frame.Helds(l); !bytes.Equal(again, before) {
 		t.Errorf("Helds is %v, was %v", again, before)
+	}
+}
+
+// For layers that have states.
+
+func TestIsHeld(t *testing.T) {
+	for node := range api.MaxNodes {
+		for many := range api.MaxKey + 1 {
+			if h := held(node, strings.Repeat("\xff", many), low, high); !frame.IsHeld(h) {
+				t.Errorf("IsHeld(%v) is false", h)
+			}
+		}
+	}
+	for _, h := range []api.Held{held(-1, "", 0, 0), held(api.MaxNodes, "a", 0, 0), held(low, "", 1, 1), held(high, "", 1, 1), held(1<<32, "", 1, 1), held(3, strings.Repeat("k", api.MaxKey+1), 0, 0)} {
+		if frame.IsHeld(h) {
+			t.Errorf("IsHeld(%v) is true", h)
+		}
+	}
+}
+
+func TestCompare(t *testing.T) {
+	l := []api.Held{held(low, "z", 9, 9), held(-1, "z", 8, 8), held(0, "", 7, 7), held(0, "a", 6, 6), held(0, "a\x00", 5, 5), held(0, "\xff", 4, 4), held(2, "", 3, 3), held(10, "", 2, 2), held(high, "", 1, 1)}
+	for i, a := range l {
+		for j, b := range l {
+			if got, want := frame.Compare(a, b), cmp.Compare(i, j); cmp.Compare(got, 0) != want {
+				t.Errorf("Compare(%v, %v) is %d, want %d", a, b, got, want)
+			}
+		}
+		if got := frame.Compare(a, held(a.Node, a.Key, -a.A, 0)); got != 0 {
+			t.Errorf("Compare of the same place is %d", got)
+		}
 	}
 }
