@@ -18,7 +18,7 @@ func Apply(n api.Node, state api.Held, has bool, r api.Record, input int) ([]api
 	}
 	var made api.Record
 	var many int
-	if hasState(n.Kind) {
+	if HasState(n.Kind) {
 		made, many, state = counted(n, state, has, r)
 		has = true
 	} else {
@@ -30,7 +30,8 @@ func Apply(n api.Node, state api.Held, has bool, r api.Record, input int) ([]api
 	return copies(made, many), state, has
 }
 
-func hasState(kind int) bool {
+// HasState tells whether nodes of a kind have states.
+func HasState(kind int) bool {
 	return kind == api.Fold || kind == api.Every || kind == api.First
 }
 

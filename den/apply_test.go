@@ -200,6 +200,21 @@ func TestApplyStateIsOfTheKey(t *testing.T) {
 	}
 }
 
+// Nodes of a kind have states just if they come to have one of a record.
+func TestHasState(t *testing.T) {
+	for kind := -2; kind <= 13; kind++ {
+		_, _, has := den.Apply(node(kind, "n", 1, 0), api.Held{}, false, rec("a", 5, 0), 0)
+		if den.HasState(kind) != has {
+			t.Errorf("HasState(%d) is %t, want %t", kind, !has, has)
+		}
+	}
+	for _, kind := range []int{api.Fold, api.Every, api.First} {
+		if !den.HasState(kind) {
+			t.Errorf("HasState(%d) is false", kind)
+		}
+	}
+}
+
 // D1, keys that are too long
 
 func TestApplyLongestKey(t *testing.T) {

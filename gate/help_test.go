@@ -86,6 +86,13 @@ func wantWaiting(t *testing.T, g *gate.Gate, want int) {
 	}
 }
 
+func wantReady(t *testing.T, g *gate.Gate, want bool) {
+	t.Helper()
+	if got := g.Ready(); got != want {
+		t.Errorf("Ready is %t, want %t", got, want)
+	}
+}
+
 // wantBlocked holds of each input whether it is blocked, by a sign each: `b` or
 // `-`; and that there are no more inputs.
 func wantBlocked(t *testing.T, g *gate.Gate, want string) {

@@ -51,6 +51,30 @@ func TestPlayOfManySteps(t *testing.T) {
 	}
 }
 
+// Ready tells whether Next or Bound would take something, and takes nothing.
+func TestReady(t *testing.T) {
+	g := made(t, 2)
+	wantReady(t, g, false)
+	bar(t, g, 0, 1)
+	push(t, g, 0, 1)
+	wantReady(t, g, false) // the record may not go, and the barrier waits for another
+	push(t, g, 1, 10)
+	wantReady(t, g, true)
+	wantWaiting(t, g, 3)
+	wantNext(t, g, 10, 1)
+	wantReady(t, g, false)
+	bar(t, g, 1, 2)
+	wantReady(t, g, true)
+	wantBound(t, g, 1)
+	wantReady(t, g, true)
+	wantNext(t, g, 1, 0)
+	wantReady(t, g, false)
+	bar(t, g, 0, 2)
+	wantReady(t, g, true)
+	wantBound(t, g, 2)
+	wantReady(t, g, false)
+}
+
 // Nothing behind a barrier is handed on ahead of what was ahead of it elsewhere.
 // A record has as its number the last id ahead of it at its input (0, if there
 // is none): these never fall, over all inputs, and each is a bound that was

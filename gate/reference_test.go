@@ -42,6 +42,15 @@ func (s *second) isBlocked(input int) bool {
 	return len(l) > 0 && s.all[l[0]].id != 0
 }
 
+// isReady asks copies whether something would be taken.
+func (s *second) isReady() bool {
+	record, barrier := *s, *s
+	record.all, barrier.all = slices.Clone(s.all), slices.Clone(s.all)
+	_, _, next := record.next()
+	_, bound := barrier.bound()
+	return next || bound
+}
+
 func (s *second) waiting() int {
 	many := 0
 	for input := range s.inputs {
@@ -154,6 +163,7 @@ func thrownStep(random *rand.Rand, g *gate.Gate, want *second, bars int) (got, t
 func wantAsSecond(t *testing.T, g *gate.Gate, want *second) {
 	t.Helper()
 	wantWaiting(t, g, want.waiting())
+	wantReady(t, g, want.isReady())
 	blocked := ""
 	for input := range want.inputs {
 		if want.isBlocked(input) {
