@@ -40,6 +40,14 @@ func wantAll(t *testing.T, text string, data [][]api.Record, want string) {
 	}
 }
 
+// wantChecked holds what Check says ahead of All: nothing of the flow.
+func wantChecked(t *testing.T, l []api.Node, data [][]api.Record, want api.Errno) {
+	t.Helper()
+	if err := den.Check(l, data); plain.Told(err) != want {
+		t.Errorf("Check(%v) is %v, want %v", l, err, want)
+	}
+}
+
 func wantFault(t *testing.T, l []api.Node, data [][]api.Record, want api.Errno) {
 	t.Helper()
 	if got, err := den.All(l, data); got != nil || plain.Told(err) != want {
@@ -168,6 +176,7 @@ func TestAllOfWrongJob(t *testing.T) {
 	} {
 		for _, data := range [][][]api.Record{nil, {nil}, {times(2, "a")}, wrong} {
 			wantFault(t, c.l, data, c.want)
+			wantChecked(t, c.l, data, c.want)
 		}
 	}
 }
@@ -203,12 +212,15 @@ func TestAllOfWrongRecords(t *testing.T) {
 	long := strings.Repeat("k", api.MaxKey)
 	for _, r := range []api.Record{rec("", 0, 0), rec(long, 0, 0), rec("a", 0, 1), rec("a", 0, api.MaxTime), rec("a", math.MinInt, 0), rec("a", math.MaxInt, 0)} {
 		wantRight(t, l, [][]api.Record{{r}, {r}})
+		wantChecked(t, l, [][]api.Record{{r}, {r}}, api.OK)
 	}
 	for _, r := range []api.Record{
 		rec(long+"k", 0, 0), rec(strings.Repeat("k", 1000), 0, 0), rec("a", 0, -1), rec("a", 0, math.MinInt), rec("a", 0, api.MaxTime+1), rec("a", 0, math.MaxInt),
 	} {
 		wantFault(t, l, [][]api.Record{{r}, nil}, api.ErrRange)
 		wantFault(t, l, [][]api.Record{nil, {r}}, api.ErrRange)
+		wantChecked(t, l, [][]api.Record{nil, {r}}, api.ErrRange)
+		wantChecked(t, l, [][]api.Record{{r}}, api.ErrShape)
 		last := append(times(api.MaxData-1, "a"), r)
 		wantFault(t, l, [][]api.Record{last, nil}, api.ErrRange)
 		wantFault(t, l, [][]api.Record{times(3, "a"), last}, api.ErrRange)
@@ -242,6 +254,7 @@ func TestAllOfMostFlow(t *testing.T) {
 		wantFault(t, l, [][]api.Record{times(222, "a"), times(3, "b")}, api.ErrFull)
 		wantFault(t, l, [][]api.Record{times(222, "a"), times(300, "b")}, api.ErrFull)
 		wantFault(t, l, [][]api.Record{times(223, "a"), nil}, api.ErrFull)
+		wantChecked(t, l, [][]api.Record{times(223, "a"), nil}, api.OK)
 		wantFault(t, l, [][]api.Record{times(300, "a"), times(301, "b")}, api.ErrFull)
 		wantFault(t, l, [][]api.Record{times(300, "a"), {rec("b", 0, -1)}}, api.ErrRange) // ahead of the flow
 	}
