@@ -213,6 +213,9 @@ func TestAllOfWrongRecords(t *testing.T) {
 	for _, r := range []api.Record{rec("", 0, 0), rec(long, 0, 0), rec("a", 0, 1), rec("a", 0, api.MaxTime), rec("a", math.MinInt, 0), rec("a", math.MaxInt, 0)} {
 		wantRight(t, l, [][]api.Record{{r}, {r}})
 		wantChecked(t, l, [][]api.Record{{r}, {r}}, api.OK)
+		if !den.IsRecord(r) {
+			t.Errorf("%v is none", r)
+		}
 	}
 	for _, r := range []api.Record{
 		rec(long+"k", 0, 0), rec(strings.Repeat("k", 1000), 0, 0), rec("a", 0, -1), rec("a", 0, math.MinInt), rec("a", 0, api.MaxTime+1), rec("a", 0, math.MaxInt),
@@ -220,6 +223,9 @@ func TestAllOfWrongRecords(t *testing.T) {
 		wantFault(t, l, [][]api.Record{{r}, nil}, api.ErrRange)
 		wantFault(t, l, [][]api.Record{nil, {r}}, api.ErrRange)
 		wantChecked(t, l, [][]api.Record{nil, {r}}, api.ErrRange)
+		if den.IsRecord(r) {
+			t.Errorf("%v is one", r)
+		}
 		wantChecked(t, l, [][]api.Record{{r}}, api.ErrShape)
 		last := append(times(api.MaxData-1, "a"), r)
 		wantFault(t, l, [][]api.Record{last, nil}, api.ErrRange)

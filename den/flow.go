@@ -16,15 +16,18 @@ func checkData(data [][]api.Record, sources int) error {
 		if len(l) > api.MaxData {
 			return api.ErrFull
 		}
-		if slices.ContainsFunc(l, outOfRange) {
-			return api.ErrRange
+		for _, r := range l {
+			if !IsRecord(r) {
+				return api.ErrRange
+			}
 		}
 	}
 	return nil
 }
 
-func outOfRange(r api.Record) bool {
-	return len(r.Key) > api.MaxKey || r.Time < 0 || r.Time > api.MaxTime
+// IsRecord tells whether a record's Key and Time are such as may be.
+func IsRecord(r api.Record) bool {
+	return len(r.Key) <= api.MaxKey && r.Time >= 0 && r.Time <= api.MaxTime
 }
 
 // flow tells what each node of a right job hands on. It goes node by node,
