@@ -17,7 +17,7 @@ func Of(key string) int {
 
 // Range of a worker's groups: from low on, below high.
 func Range(p, i int) (low, high int, err error) {
-	if !isWorkers(p) || i < 0 || i >= p {
+	if !IsWorkers(p) || i < 0 || i >= p {
 		return 0, 0, api.ErrRange
 	}
 	return begin(p, i), begin(p, i+1), nil
@@ -25,7 +25,7 @@ func Range(p, i int) (low, high int, err error) {
 
 // Owner of a group: the worker whose Range it lies in.
 func Owner(p, group int) (int, error) {
-	if !isWorkers(p) || group < 0 || group >= api.Groups {
+	if !IsWorkers(p) || group < 0 || group >= api.Groups {
 		return 0, api.ErrRange
 	}
 	return owner(p, group), nil
@@ -33,7 +33,7 @@ func Owner(p, group int) (int, error) {
 
 // Moves of groups to other owners, where p workers become q, by groups.
 func Moves(p, q int) ([]api.Move, error) {
-	if !isWorkers(p) || !isWorkers(q) {
+	if !IsWorkers(p) || !IsWorkers(q) {
 		return nil, api.ErrRange
 	}
 	var moves []api.Move
@@ -54,7 +54,8 @@ func Split(key string, splits int) (int, error) {
 	return Of(key) % splits, nil
 }
 
-func isWorkers(p int) bool {
+// IsWorkers tells whether there may be so many workers.
+func IsWorkers(p int) bool {
 	return p >= 1 && p <= api.Groups
 }
 

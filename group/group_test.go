@@ -82,6 +82,21 @@ func TestOfHitsEachGroup(t *testing.T) {
 	}
 }
 
+// G2: workers
+
+func TestIsWorkers(t *testing.T) {
+	for p := 1; p <= api.Groups; p++ {
+		if !group.IsWorkers(p) {
+			t.Errorf("IsWorkers(%d) is false", p)
+		}
+	}
+	for _, p := range badWorkers() {
+		if group.IsWorkers(p) {
+			t.Errorf("IsWorkers(%d) is true", p)
+		}
+	}
+}
+
 // G2: Range
 
 // roundedUp is the least number that is, times p, i times Groups or more.
