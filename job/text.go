@@ -36,9 +36,9 @@ func kindOf(word string) int {
 	return 0
 }
 
-// lines gives the lines of a text, without the byte that ends them, and
+// Lines gives the lines of a text, without the byte that ends them, and
 // whether it is there: the last one may have none.
-func lines(text string) iter.Seq2[string, bool] {
+func Lines(text string) iter.Seq2[string, bool] {
 	return func(yield func(string, bool) bool) {
 		for rest := text; rest != ""; {
 			line, behind, ended := strings.Cut(rest, "\n")

@@ -199,3 +199,31 @@ func TestParseLongLines(t *testing.T) {
 	wantLine(t, "source 1\nunion"+strings.Repeat(" 0", many)+" n\n", 1, api.ErrSyntax)
 	wantLine(t, "source 1\nmap 0 "+strings.Repeat("n", many)+"\n", 1, api.ErrFull)
 }
+
+// Lines is for other layers, too.
+func TestLines(t *testing.T) {
+	for _, c := range []struct {
+		text string
+		want []string
+		last bool // whether the last one is ended
+	}{
+		{"", nil, true}, {"\n", []string{""}, true}, {"a", []string{"a"}, false}, {"a\n", []string{"a"}, true}, {"a\nb", []string{"a", "b"}, false},
+		{"\n\na", []string{"", "", "a"}, false}, {"a\n\n", []string{"a", ""}, true}, {" \r\n\x00", []string{" \r", "\x00"}, false},
+	} {
+		var got []string
+		for line, ended := range job.Lines(c.text) {
+			got = append(got, line)
+			if ended != (c.last || len(got) < len(c.want)) {
+				t.Errorf("of %q line %d tells %v", c.text, len(got)-1, ended)
+			}
+		}
+		if !reflect.DeepEqual(got, c.want) {
+			t.Errorf("lines of %q are %q, want %q", c.text, got, c.want)
+		}
+	}
+	for line := range job.Lines("a\nb\nc") {
+		if line == "b" {
+			break
+		}
+	}
+}
